@@ -101,6 +101,8 @@ type operation interface {
 	valid(id Stamp) bool
 	// words returns the words that follow the keyword in the text form.
 	words() []string
+	// apply changes d as the operation with the given ID does if it is active, or not at all if its condition is not met.
+	apply(d *draft, id Stamp)
 }
 
 // opOf returns the Op of x with the given ID.
