@@ -177,7 +177,7 @@ func (x insertOp) op() Op {
 }
 
 func (x insertOp) valid(id Stamp) bool {
-	return isOptionalRef(x.block, id) && isOptionalRef(x.after, id) && inRange(x.char, ' ', '~')
+	return isOptionalRef(x.block, id) && isOptionalRef(x.after, id) && isChar(x.char)
 }
 
 func (x insertOp) words() []string {
@@ -352,6 +352,11 @@ func isOptionalRef(t Stamp, id Stamp) bool {
 
 func isBlockKind(kind int) bool {
 	return inRange(kind, 1, MaxKind)
+}
+
+// isChar reports whether an OpInsert may insert the byte.
+func isChar(b int) bool {
+	return inRange(b, ' ', '~')
 }
 
 // isWord reports whether s is 1 to MaxWord bytes 'a' to 'z'.
